@@ -11,20 +11,12 @@ import (
 
 type pairCase struct{ a, b, want string }
 
-const failed = "failed"
-
-// tryPairs checks a function of two lists on texts of items; the want of failed is nil and false.
+// tryPairs checks a function of two lists on texts of items.
 func tryPairs(t *testing.T, name string, f func(a, b []impl.Item) ([]impl.Item, bool), cases []pairCase) {
 	t.Helper()
 	for _, c := range cases {
 		out, ok := f(read(c.a), read(c.b))
-		if c.want == failed {
-			if ok || len(out) != 0 {
-				t.Errorf("%s(%q, %q) = %q, %v, want nil, false", name, c.a, c.b, write(out), ok)
-			}
-		} else if !ok || write(out) != c.want {
-			t.Errorf("%s(%q, %q) = %q, %v, want %q", name, c.a, c.b, write(out), ok, c.want)
-		}
+		expect(t, out, ok, c.want, "%s(%q, %q)", name, c.a, c.b)
 	}
 }
 
@@ -65,9 +57,7 @@ func TestCountTexts(t *testing.T) {
 		{"a A", failed}, {"a abcde", failed}, {"a1", failed}, {"a b:1", failed}, {"é", failed},
 	} {
 		out, ok := impl.CountTexts(strings.Fields(c.texts))
-		if c.want == failed && (ok || len(out) != 0) || c.want != failed && (!ok || write(out) != c.want) {
-			t.Errorf("CountTexts(%q) = %q, %v", c.texts, write(out), ok)
-		}
+		expect(t, out, ok, c.want, "CountTexts(%q)", c.texts)
 	}
 	if out, ok := impl.CountTexts([]string{"a", "", "a"}); ok || len(out) != 0 {
 		t.Errorf("CountTexts with an empty text = %q, %v", write(out), ok)
@@ -178,9 +168,7 @@ func TestScaleCounts(t *testing.T) {
 		{"a:0", math.MaxInt, failed}, {"a:2", math.MinInt, failed}, {"a:2", math.MinInt + 1, failed},
 	} {
 		out, ok := impl.ScaleCounts(read(c.list), c.n)
-		if c.want == failed && (ok || len(out) != 0) || c.want != failed && (!ok || write(out) != c.want) {
-			t.Errorf("ScaleCounts(%q, %d) = %q, %v, want %q", c.list, c.n, write(out), ok, c.want)
-		}
+		expect(t, out, ok, c.want, "ScaleCounts(%q, %d)", c.list, c.n)
 	}
 }
 

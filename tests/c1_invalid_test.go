@@ -25,6 +25,8 @@ func invalidLists() [][]impl.Item {
 
 type pairCall func(a, b []impl.Item) ([]impl.Item, bool)
 
+type pairCompare func(a, b []impl.Item) bool
+
 type listCall func(list []impl.Item) ([]impl.Item, bool)
 
 func pairCalls() map[string]pairCall {
@@ -47,35 +49,45 @@ func listCalls() map[string]listCall {
 	}
 }
 
-func TestInvalidPairs(t *testing.T) {
+// refusePairs checks that calls and comparisons of two lists fail if either list is not valid.
+func refusePairs(t *testing.T, calls map[string]pairCall, compares map[string]pairCompare) {
+	t.Helper()
 	valid := [][]impl.Item{nil, read("a:1 c:2"), read("a:-1 b:-1")}
 	for _, bad := range invalidLists() {
 		for _, good := range append(valid, bad) {
-			for name, f := range pairCalls() {
-				if out, ok := f(bad, good); ok || len(out) != 0 {
-					t.Errorf("%s(%v, %v) = %v, %v", name, bad, good, out, ok)
-				}
-				if out, ok := f(good, bad); ok || len(out) != 0 {
-					t.Errorf("%s(%v, %v) = %v, %v", name, good, bad, out, ok)
-				}
+			for name, f := range calls {
+				out, ok := f(bad, good)
+				expect(t, out, ok, failed, "%s(%v, %v)", name, bad, good)
+				out, ok = f(good, bad)
+				expect(t, out, ok, failed, "%s(%v, %v)", name, good, bad)
 			}
-			if impl.WithinCounts(bad, good) || impl.WithinCounts(good, bad) {
-				t.Errorf("WithinCounts of %v and %v = true", good, bad)
-			}
-			if impl.SameCounts(bad, good) || impl.SameCounts(good, bad) {
-				t.Errorf("SameCounts of %v and %v = true", good, bad)
+			for name, f := range compares {
+				if f(bad, good) || f(good, bad) {
+					t.Errorf("%s of %v and %v = true", name, good, bad)
+				}
 			}
 		}
 	}
 }
 
-func TestInvalidLists(t *testing.T) {
+// refuseLists checks that calls of one list fail if it is not valid.
+func refuseLists(t *testing.T, calls map[string]listCall) {
+	t.Helper()
 	for _, bad := range invalidLists() {
-		for name, f := range listCalls() {
-			if out, ok := f(bad); ok || len(out) != 0 {
-				t.Errorf("%s(%v) = %v, %v", name, bad, out, ok)
-			}
+		for name, f := range calls {
+			out, ok := f(bad)
+			expect(t, out, ok, failed, "%s(%v)", name, bad)
 		}
+	}
+}
+
+func TestInvalidPairs(t *testing.T) {
+	refusePairs(t, pairCalls(), map[string]pairCompare{"WithinCounts": impl.WithinCounts, "SameCounts": impl.SameCounts})
+}
+
+func TestInvalidLists(t *testing.T) {
+	refuseLists(t, listCalls())
+	for _, bad := range invalidLists() {
 		for _, key := range append(keysOf(bad), "z") {
 			if n := impl.CountOf(bad, key); n != 0 {
 				t.Errorf("CountOf(%v, %q) = %d", bad, key, n)
@@ -99,36 +111,46 @@ func roomy(s string) (list, whole []impl.Item) {
 	return whole[:len(whole)-2], whole
 }
 
-// TestArgumentsStay checks that no call changes its arguments, and that no result shares memory with them.
-func TestArgumentsStay(t *testing.T) {
-	const first, second = "d:1 a:3 b:-1 c:0", "a:1 b:5 e:2 f:-3"
-	spoil := func(out []impl.Item) {
-		for i := range out[:cap(out)] {
-			out[:cap(out)][i] = impl.Item{Key: "bad", N: 99}
-		}
+// The lists that calls are tried on to see whether they stay.
+const firstList, secondList = "d:1 a:3 b:-1 c:0", "a:1 b:5 e:2 f:-3"
+
+// spoil writes over a result and the room behind it, which shows in whatever shares its memory.
+func spoil(out []impl.Item) {
+	for i := range out[:cap(out)] {
+		out[:cap(out)][i] = impl.Item{Key: "bad", N: 99}
 	}
-	check := func(name string, s string, whole []impl.Item) {
-		t.Helper()
-		_, want := roomy(s)
-		if !slices.Equal(whole, want) {
-			t.Errorf("%s has changed its argument %q to %q", name, write(want), write(whole))
-		}
+}
+
+// stays checks that the whole of a roomy list is as it was.
+func stays(t *testing.T, name string, s string, whole []impl.Item) {
+	t.Helper()
+	if _, want := roomy(s); !slices.Equal(whole, want) {
+		t.Errorf("%s has changed its argument %q to %q", name, write(want), write(whole))
 	}
-	for name, f := range pairCalls() {
-		a, wholeA := roomy(first)
-		b, wholeB := roomy(second)
+}
+
+// keepArguments checks that no call changes its arguments, and that no result shares memory with them.
+func keepArguments(t *testing.T, pairs map[string]pairCall, lists map[string]listCall) {
+	t.Helper()
+	for name, f := range pairs {
+		a, wholeA := roomy(firstList)
+		b, wholeB := roomy(secondList)
 		out, _ := f(a, b)
 		spoil(out)
-		check(name, first, wholeA)
-		check(name, second, wholeB)
+		stays(t, name, firstList, wholeA)
+		stays(t, name, secondList, wholeB)
 	}
-	for name, f := range listCalls() {
-		list, whole := roomy(first)
+	for name, f := range lists {
+		list, whole := roomy(firstList)
 		out, _ := f(list)
 		spoil(out)
-		check(name, first, whole)
+		stays(t, name, firstList, whole)
 	}
-	list, whole := roomy(first)
+}
+
+func TestArgumentsStay(t *testing.T) {
+	keepArguments(t, pairCalls(), listCalls())
+	list, whole := roomy(firstList)
 	impl.ValidItems(list)
 	impl.CountOf(list, "a")
 	impl.TotalCount(list)
@@ -136,7 +158,7 @@ func TestArgumentsStay(t *testing.T) {
 	impl.WithinCounts(list, list)
 	impl.SameCounts(list, list)
 	impl.ItemsText(list)
-	check("a call without items as its result", first, whole)
+	stays(t, "a call without items as its result", firstList, whole)
 	texts := []string{"b", "a", "b", "keep"}
 	impl.CountTexts(texts[:3])
 	if !slices.Equal(texts, []string{"b", "a", "b", "keep"}) {

@@ -33,6 +33,17 @@ func write(list []impl.Item) string {
 	return strings.Join(parts, " ")
 }
 
+// failed is the text that is wanted of a call that gives no items and false.
+const failed = "failed"
+
+// expect checks the items of a call against the text that is wanted; what tells of the call.
+func expect(t *testing.T, out []impl.Item, ok bool, want string, what string, about ...any) {
+	t.Helper()
+	if want == failed && (ok || len(out) != 0) || want != failed && (!ok || write(out) != want) {
+		t.Errorf("%s = %q, %v, want %q", fmt.Sprintf(what, about...), write(out), ok, want)
+	}
+}
+
 // counted returns the count of a key without the program's own CountOf.
 func counted(list []impl.Item, key string) int {
 	for _, item := range list {
