@@ -312,16 +312,21 @@ func SameCounts(a []Item, b []Item) bool {
 	return len(t.counts) == 0
 }
 
-// ItemsText returns the text of items.
-func ItemsText(list []Item) string {
-	if !ValidItems(list) {
-		return ""
-	}
+// textOf returns the text of items, however many they are.
+func textOf(list []Item) string {
 	parts := make([]string, 0, len(list))
 	for _, item := range list {
 		parts = append(parts, item.Key+":"+strconv.Itoa(item.N))
 	}
 	return strings.Join(parts, " ")
+}
+
+// ItemsText returns the text of items.
+func ItemsText(list []Item) string {
+	if !ValidItems(list) {
+		return ""
+	}
+	return textOf(list)
 }
 
 // ParseItems returns the items of a text.
